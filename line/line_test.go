@@ -5,22 +5,9 @@ import (
 	"slices"
 	"strings"
 	"testing"
-)
 
-// texts calls f with every text of up to most of the pieces.
-func texts(pieces []string, most int, f func(string)) {
-	var add func(string, int)
-	add = func(s string, left int) {
-		f(s)
-		if left == 0 {
-			return
-		}
-		for _, p := range pieces {
-			add(s+p, left-1)
-		}
-	}
-	add("", most)
-}
+	"bowdler/every"
+)
 
 // awkward are pieces of which lines are made: blanks, what looks like one, and bytes that are no part of a rune.
 func awkward() []string {
@@ -61,7 +48,7 @@ func TestSplit(t *testing.T) {
 
 // P201: Split of every short text, against the same said another way, and back by Join.
 func TestSplitOfAll(t *testing.T) {
-	texts(awkward(), 6, func(s string) {
+	every.Text(awkward(), 6, func(s string) {
 		want := strings.Split(s, "\n")
 		if want[len(want)-1] == "" {
 			want = want[:len(want)-1]
@@ -286,7 +273,7 @@ func expanded(s string) string {
 
 // P201, P202: of every short text Blank, Expand, Indent and Strip, against the same said another way.
 func TestBlanksOfAll(t *testing.T) {
-	texts(awkward(), 6, func(s string) {
+	every.Text(awkward(), 6, func(s string) {
 		want := expanded(s)
 		if got := Expand(s); got != want {
 			t.Fatalf("Expand(%q): %q, not %q", s, got, want)

@@ -5,22 +5,9 @@ import (
 	"strings"
 	"testing"
 	"unicode/utf8"
-)
 
-// texts calls f with every text of up to most of the pieces.
-func texts(pieces []string, most int, f func(string)) {
-	var add func(string, int)
-	add = func(s string, left int) {
-		f(s)
-		if left == 0 {
-			return
-		}
-		for _, p := range pieces {
-			add(s+p, left-1)
-		}
-	}
-	add("", most)
-}
+	"bowdler/every"
+)
 
 // P101: what stands in the chapter of Text, by examples.
 func TestText(t *testing.T) {
@@ -70,7 +57,7 @@ func TestText(t *testing.T) {
 // P101: Text of every short text of awkward bytes, against the same said another way.
 func TestTextOfAll(t *testing.T) {
 	pieces := []string{"a", "\x00", "\r", "\n", "\xc3", "\xa4", "\xe2", "\x82", "\xac", "\xff"}
-	texts(pieces, 5, func(s string) {
+	every.Text(pieces, 5, func(s string) {
 		want := string([]rune(s))
 		want = strings.ReplaceAll(want, "\r\n", "\n")
 		want = strings.ReplaceAll(want, "\r", "\n")
@@ -252,7 +239,7 @@ func TestFoldOfEachRune(t *testing.T) {
 func TestFoldOfAll(t *testing.T) {
 	pieces := []string{"a", "B", "Ä", " ", "\n", "\u00a0", "\xc3", "\x84", "\xef\xbf", "\xbd", "\xff"}
 	lower := strings.NewReplacer("B", "b", "Ä", "ä")
-	texts(pieces, 5, func(s string) {
+	every.Text(pieces, 5, func(s string) {
 		want := lower.Replace(strings.Join(strings.FieldsFunc(s, Space), " "))
 		got := Fold(s)
 		if got != want {
